@@ -36,3 +36,11 @@ func spared(l []int) ([]int, func() bool) {
 func repeated(n, times int) []int {
 	return slices.Repeat([]int{n}, times)
 }
+
+// mixing returns a function that gives further numbers below a bound, the same ones for each seed.
+func mixing(seed int) func(below int) int {
+	return func(below int) int {
+		seed = (seed*1103515245 + 12345) % 2147483648
+		return seed / 65536 % below
+	}
+}

@@ -41,10 +41,7 @@ func largeCode() impl.Code {
 
 // mixedCode is a code of n elements whose numbers differ from one seed to the next one.
 func mixedCode(seed, n int) impl.Code {
-	next := func(below int) int {
-		seed = (seed*1103515245 + 12345) % 2147483648
-		return seed / 65536 % below
-	}
+	next := mixing(seed)
 	c := impl.Code{Repeats: 1 + next(3), Bonus: next(21), Keeps: 50 + next(51), Fall: next(501)}
 	for range 5 {
 		c.Limits = append(c.Limits, next(10))

@@ -46,10 +46,7 @@ func longestItemsText() string {
 
 // mixedItems is a list of n items that differ from one seed to the next one.
 func mixedItems(seed, n int) []impl.Item {
-	next := func(below int) int {
-		seed = (seed*1103515245 + 12345) % 2147483648
-		return seed / 65536 % below
-	}
+	next := mixing(seed)
 	var l []impl.Item
 	for range n {
 		it := impl.Item{Late: next(2) == 1}
@@ -779,6 +776,31 @@ func TestPromise33ListsAreLeftAsTheyAre(t *testing.T) {
 	}
 }
 
+// checkOwnMemory checks that the slices of a result share memory neither with one another nor with those of a further result.
+func checkOwnMemory(t *testing.T, what string, call func() []impl.Item) {
+	t.Helper()
+	first, second := call(), call()
+	if len(first) == 0 || !sameItems(first, second) {
+		t.Errorf("%s: %+v and %+v", what, first, second)
+	}
+	kept := copiedItems(second)
+	for i := range second {
+		// One slice after the other: all that are not yet overwritten must be as they were.
+		spoilNames(second[i].Names)
+		if !slices.Equal(second[i].Marks, kept[i].Marks) || !sameItems(second[i+1:], kept[i+1:]) {
+			t.Errorf("%s: the names of item %d share memory with another part", what, i)
+		}
+		spoilNumbers(second[i].Marks)
+		if !sameItems(second[i+1:], kept[i+1:]) {
+			t.Errorf("%s: the marks of item %d share memory with another part", what, i)
+		}
+	}
+	spoilItems(second)
+	if !sameItems(first, kept) || !sameItems(call(), kept) {
+		t.Errorf("%s: two results share memory", what)
+	}
+}
+
 func TestPromise33ResultsOfListsShareNothing(t *testing.T) {
 	calls := map[string]func() []impl.Item{
 		"CleanItems": func() []impl.Item { l, _ := impl.CleanItems(someItems()); return l },
@@ -786,26 +808,7 @@ func TestPromise33ResultsOfListsShareNothing(t *testing.T) {
 		"ParseItem":  func() []impl.Item { it, _ := impl.ParseItem("3A<+2T+EX* x"); return []impl.Item{it} },
 	}
 	for what, call := range calls {
-		first, second := call(), call()
-		if len(first) == 0 || !sameItems(first, second) {
-			t.Errorf("%s: %+v and %+v", what, first, second)
-		}
-		kept := copiedItems(second)
-		for i := range second {
-			// One slice after the other: all that are not yet overwritten must be as they were.
-			spoilNames(second[i].Names)
-			if !slices.Equal(second[i].Marks, kept[i].Marks) || !sameItems(second[i+1:], kept[i+1:]) {
-				t.Errorf("%s: the names of item %d share memory with another part", what, i)
-			}
-			spoilNumbers(second[i].Marks)
-			if !sameItems(second[i+1:], kept[i+1:]) {
-				t.Errorf("%s: the marks of item %d share memory with another part", what, i)
-			}
-		}
-		spoilItems(second)
-		if !sameItems(first, kept) || !sameItems(call(), kept) {
-			t.Errorf("%s: two results share memory", what)
-		}
+		checkOwnMemory(t, what, call)
 	}
 	counts, _ := impl.CountMarks(someItems())
 	spoilNumbers(counts)
