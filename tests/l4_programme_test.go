@@ -439,8 +439,7 @@ func TestTimesOf(t *testing.T) {
 	l := []impl.Item{called("2A", false, 0), called("2A 2T", true, 1, 0), called("3A", false, 2), called("2T 2T 2A", false, 3, 0, 0), called("CSP", true, 0), called("3A", true, 3), called("X 2TT", false, 0, 0), called("2T", true, 0)}
 	for name, want := range map[string][2]int{
 		"2A": {3, 2}, "2T": {4, 3}, "3A": {2, 0}, "CSP": {1, 0}, "X": {1, 1}, "2TT": {1, 1}, // single, combined, in one item twice, marked, late
-		"2": {0, 0}, "T": {0, 0}, "CS": {0, 0}, "ZZZZZ": {0, 0}, // not there, though names may begin so
-		"": {0, 0}, "2a": {0, 0}, "2A+2T": {0, 0}, "2A ": {0, 0}, "ABCDEF": {0, 0}, "\xff": {0, 0}, // no names, which are nowhere
+		"2": {0, 0}, "T": {0, 0}, "CS": {0, 0}, "0": {0, 0}, "ZZZZZ": {0, 0}, // not there, though names may begin so
 	} {
 		if n, m, ok := impl.TimesOf(l, name); n != want[0] || m != want[1] || !ok {
 			t.Errorf("TimesOf %q = %d, %d, %v; want %v", name, n, m, ok, want)
@@ -453,6 +452,30 @@ func TestTimesOf(t *testing.T) {
 		full := slices.Repeat(planned(strings.Repeat("+2A", times)[1:]), 14)
 		if n, m, ok := impl.TimesOf(full, "2A"); n != 14*times || m != 14*times && times > 1 || m != 0 && times == 1 || !ok {
 			t.Errorf("TimesOf in 14 items with %d names = %d, %d, %v", times, n, m, ok)
+		}
+	}
+}
+
+// A name that is nowhere occurs 0 times, but with a string that is no name the call fails.
+func TestPromise33TimesOfNoName(t *testing.T) {
+	l := []impl.Item{called("2A", false, 0), called("2A 2T", true, 1, 0), called("ZZZZZ", false, 3)}
+	noNames := []string{
+		"", " ", "\x00", "\xff", "\u20ac", "\u0661", // nothing, or no letters and digits
+		"a", "2a", "2A ", " 2A", "2A\n", "2A\x00", "2A<", "2Ae", "2A*", "2A x", "2-A", "2A+2T", // others too, such as signs and whole items
+		"ABCDEF", "ZZZZZZ", "2A2A2A", strings.Repeat("A", 100000), // more than 5
+	}
+	for b := range 256 { // each other byte, alone, last and first
+		if c := byte(b); c < '0' || c > '9' && c < 'A' || c > 'Z' {
+			noNames = append(noNames, string([]byte{c}), string([]byte{'2', c}), string([]byte{c, 'A'}))
+		}
+	}
+	for _, name := range noNames {
+		for _, items := range [][]impl.Item{nil, {}, l, slices.Repeat(l[:1], 14)} {
+			calm(t, "TimesOf", func() {
+				if n, m, ok := impl.TimesOf(items, name); n != 0 || m != 0 || ok {
+					t.Errorf("TimesOf %.20q in %d items = %d, %d, %v", name, len(items), n, m, ok)
+				}
+			})
 		}
 	}
 }
