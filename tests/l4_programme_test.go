@@ -840,9 +840,9 @@ func TestPromise33ProgrammesWithBadCodes(t *testing.T) {
 	}
 }
 
-func TestPromise33ProgrammesOfBadLists(t *testing.T) {
+// badPlans are bad lists, some of which are programmes for wideCode but for one item, or for their length.
+func badPlans() map[string][]impl.Item {
 	bad := badLists()
-	// These are programmes but for one item, or for their length.
 	var long []string
 	for i := range 15 {
 		long = append(long, string(rune('A'+i)))
@@ -852,7 +852,11 @@ func TestPromise33ProgrammesOfBadLists(t *testing.T) {
 		bad[what+", among good ones"] = plainLate(append(planned("A", "B"), it))
 		bad[what+", before good ones"] = plainLate(append([]impl.Item{it}, planned("A", "B")...))
 	}
-	for what, l := range bad {
+	return bad
+}
+
+func TestPromise33ProgrammesOfBadLists(t *testing.T) {
+	for what, l := range badPlans() {
 		before := copiedItems(l)
 		checkNoCalls(t, what, wideCode(), l)
 		checkNoCalls(t, what+", zero code", impl.Code{}, l)
