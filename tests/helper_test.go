@@ -1,7 +1,9 @@
 package tests
 
 import (
+	"fmt"
 	"math"
+	"reflect"
 	"slices"
 	"testing"
 )
@@ -42,5 +44,76 @@ func mixing(seed int) func(below int) int {
 	return func(below int) int {
 		seed = (seed*1103515245 + 12345) % 2147483648
 		return seed / 65536 % below
+	}
+}
+
+// isNothing tells whether a value is zero; a slice may be nil or empty.
+func isNothing(v reflect.Value) bool {
+	switch v.Kind() {
+	case reflect.Slice:
+		return v.Len() == 0
+	case reflect.Struct:
+		for i := range v.NumField() {
+			if !isNothing(v.Field(i)) {
+				return false
+			}
+		}
+		return true
+	}
+	return v.IsZero()
+}
+
+// wholeText is a text of all that a value holds, with what is behind the lengths of its slices.
+func wholeText(v reflect.Value) string {
+	text := ""
+	switch v.Kind() {
+	case reflect.Slice:
+		whole := v.Slice(0, v.Cap())
+		for i := range whole.Len() {
+			text += wholeText(whole.Index(i)) + ","
+		}
+		return fmt.Sprint("[", v.Len(), ":", text, "]")
+	case reflect.Struct:
+		for i := range v.NumField() {
+			text += wholeText(v.Field(i)) + ";"
+		}
+		return "{" + text + "}"
+	}
+	return fmt.Sprintf("%#v", v)
+}
+
+// cellsOf are the addresses of all elements of all slices that a value holds, with their spare capacity.
+func cellsOf(v reflect.Value) []uintptr {
+	var cells []uintptr
+	switch v.Kind() {
+	case reflect.Slice:
+		whole := v.Slice(0, v.Cap())
+		for i := range whole.Len() {
+			cells = append(cells, whole.Index(i).UnsafeAddr())
+			cells = append(cells, cellsOf(whole.Index(i))...)
+		}
+	case reflect.Struct:
+		for i := range v.NumField() {
+			cells = append(cells, cellsOf(v.Field(i))...)
+		}
+	}
+	return cells
+}
+
+// checkApart checks that no two slices of a result share memory, and none with an argument or a further result.
+func checkApart(t *testing.T, what string, result any, others ...any) {
+	t.Helper()
+	taken := map[uintptr]bool{}
+	for _, other := range others {
+		for _, cell := range cellsOf(reflect.ValueOf(other)) {
+			taken[cell] = true
+		}
+	}
+	for _, cell := range cellsOf(reflect.ValueOf(result)) {
+		if taken[cell] {
+			t.Errorf("%s: %+v shares memory", what, result)
+			return
+		}
+		taken[cell] = true
 	}
 }
