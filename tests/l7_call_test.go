@@ -88,16 +88,18 @@ func manySheets(seeds int, do func(s impl.Sheet)) {
 	}
 }
 
-// namesOfSheet are the item and the index of each name.
-func namesOfSheet(s impl.Sheet) [][]int {
+// namesOfItems are the item and the index of each name of a list.
+func namesOfItems(l []impl.Item) [][]int {
 	var all [][]int
-	for i, it := range s.Items {
+	for i, it := range l {
 		for k := range it.Names {
 			all = append(all, []int{i, k})
 		}
 	}
 	return all
 }
+
+func namesOfSheet(s impl.Sheet) [][]int { return namesOfItems(s.Items) }
 
 func copiedSheet(s impl.Sheet) impl.Sheet {
 	x := impl.Sheet{Items: copiedItems(s.Items), Reviews: slices.Clone(s.Reviews), Votes: make([][][]int, len(s.Votes))}
