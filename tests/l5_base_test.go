@@ -212,6 +212,41 @@ func knownAndOther() map[bool][][]impl.Item {
 	}
 }
 
+// otherItems are items that are not valid or that baseCode does not know.
+func otherItems() map[string]impl.Item {
+	items := badItems()
+	for _, text := range []string{"3T", "2", "2AA", "3T+2A", "2A+3T", "2A+2T+3T", "2A+3T+2T", "3T+2A+2T", "3T+3T", "LIFT", "ZZZZZ"} {
+		items[text] = plannedItem(text)
+	}
+	items["late"], items["void"] = called("2A 3T", true, 0, 0), called("2A 3T", false, 0, 3)
+	return items
+}
+
+// firstElement is an item with the name of the first element of a code, which may be bad.
+func firstElement(c impl.Code) impl.Item {
+	name := "2T"
+	if len(c.Elements) > 0 {
+		name = c.Elements[0].Name
+	}
+	return impl.Item{Names: []string{name}, Marks: []int{0}}
+}
+
+// listsForBadCode are valid lists, if the name of an item is one.
+func listsForBadCode(it impl.Item) [][]impl.Item {
+	return [][]impl.Item{nil, {it}, {it, it}, planned("3A"), mixedItems(1, 14)}
+}
+
+// badListsWithKnown are lists that are not valid, some with items that wideCode knows beside bad ones.
+func badListsWithKnown() map[string][]impl.Item {
+	bad := badLists()
+	bad["15 known items"] = slices.Repeat(planned("A"), 15)
+	for what, it := range badItems() {
+		bad[what+", among known ones"] = append(planned("A", "B"), it)
+		bad[what+", before known ones"] = append([]impl.Item{it}, planned("A", "B")...)
+	}
+	return bad
+}
+
 func TestKnowsItems(t *testing.T) {
 	for want, lists := range knownAndOther() {
 		for _, l := range lists {
@@ -322,12 +357,7 @@ func TestFullBaseOfAllCalls(t *testing.T) {
 }
 
 func TestFullBaseAndFamilyOnlyOfKnownItems(t *testing.T) {
-	items := badItems()
-	for _, text := range []string{"3T", "2", "2AA", "3T+2A", "2A+3T", "2A+2T+3T", "2A+3T+2T", "3T+2A+2T", "3T+3T", "LIFT", "ZZZZZ"} {
-		items[text] = plannedItem(text)
-	}
-	items["late"], items["void"] = called("2A 3T", true, 0, 0), called("2A 3T", false, 0, 3)
-	for what, it := range items {
+	for what, it := range otherItems() {
 		before := copiedItem(it)
 		calm(t, what, func() {
 			if n, ok := impl.FullBase(baseCode(), it); n != 0 || ok {
@@ -639,17 +669,13 @@ func TestBasesOnlyOfKnownLists(t *testing.T) {
 func TestPromise33BasesWithBadCodes(t *testing.T) {
 	for what, c := range badCodes() {
 		before := copiedCode(c)
-		name := "2T"
-		if len(c.Elements) > 0 {
-			name = c.Elements[0].Name
-		}
-		it := impl.Item{Names: []string{name}, Marks: []int{0}}
-		for _, l := range [][]impl.Item{nil, {it}, {it, it}, planned("3A"), mixedItems(1, 14)} {
+		it := firstElement(c)
+		for _, l := range listsForBadCode(it) {
 			checkNoBases(t, what, c, l, false)
 		}
 		calm(t, what, func() {
 			for mark := range 5 {
-				if n, ok := impl.ElementWorth(c, name, mark); n != 0 || ok {
+				if n, ok := impl.ElementWorth(c, it.Names[0], mark); n != 0 || ok {
 					t.Errorf("%s: ElementWorth = %d, %v", what, n, ok)
 				}
 			}
@@ -667,14 +693,8 @@ func TestPromise33BasesWithBadCodes(t *testing.T) {
 }
 
 func TestPromise33BasesOfBadLists(t *testing.T) {
-	bad := badLists()
-	bad["15 known items"] = slices.Repeat(planned("A"), 15)
-	for what, it := range badItems() {
-		bad[what+", among known ones"] = append(planned("A", "B"), it)
-		bad[what+", before known ones"] = append([]impl.Item{it}, planned("A", "B")...)
-	}
 	codes := []impl.Code{wideCode(), namedCode("2T", "3A", "4S", "A", "EX"), {}}
-	for what, l := range bad {
+	for what, l := range badListsWithKnown() {
 		before := copiedItems(l)
 		for i, c := range codes {
 			checkNoBases(t, fmt.Sprint(what, ", code ", i), c, l, false)
